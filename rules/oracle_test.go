@@ -315,7 +315,7 @@ func printed(l []api.Rule) string {
 
 func expression(nodes []api.Node) string {
 	if len(nodes) == 0 {
-		return "?"
+		return ""
 	}
 	p := printer{nodes: nodes, known: map[place]string{}}
 	return p.text(len(nodes)-1, 0)

@@ -138,8 +138,12 @@ func (w *writer) rule(rule api.Rule) {
 	}
 }
 
-// expression writes one from its last node on.
-func (w *writer) expression(nodes []api.Node) { w.node(nodes, 0, 0) }
+// expression writes one from its last node on. Where there is no node, none can be written, not even as unknown.
+func (w *writer) expression(nodes []api.Node) {
+	if len(nodes) > 0 {
+		w.node(nodes, 0, 0)
+	}
+}
 
 // node writes the last one of these, as an operand of which a precedence is required, and which is inside so many others.
 func (w *writer) node(nodes []api.Node, required, outer int) {
@@ -174,12 +178,9 @@ func (w *writer) form(f form, nodes []api.Node, outer int) {
 	w.add(f.behind)
 }
 
-// lastForm is the form of the last one of these; false if there is none, or if its operands are not ahead of it.
+// lastForm is the form of the last one of these; false if there is none of its Op, or if its operands are not ahead of it.
 func lastForm(nodes []api.Node) (form, bool) {
 	last := len(nodes) - 1
-	if last < 0 {
-		return form{}, false
-	}
 	n := nodes[last]
 	f, ok := formOf(n)
 	isA := f.operands < 1 || 0 <= n.A && n.A < last

@@ -72,7 +72,7 @@ func TestPrintOfRulesThatAreNotRight(t *testing.T) {
 		want string
 		l    []api.Rule
 	}{
-		{"deny when ?", []api.Rule{{}}}, {"a = ?", []api.Rule{rule("a")}}, {"deny when ?", []api.Rule{rule("", a)}}, {"deny when $a", []api.Rule{{Expr: []api.Node{b}, When: []api.Node{a}}}}, {"a = ? when $a", []api.Rule{{Name: "a", When: []api.Node{a}}}},
+		{"deny when $a", []api.Rule{{Expr: []api.Node{b}, When: []api.Node{a}}}},
 		{"a = ?", []api.Rule{rule("a", api.Node{})}}, {"a = ?", []api.Rule{rule("a", api.Node{Op: 99})}}, {"a = ?", []api.Rule{rule("a", api.Node{Op: 18})}}, {"a = ?", []api.Rule{rule("a", api.Node{Op: -1})}}, {"a = ?", []api.Rule{rule("a", a, api.Node{Op: 1 << 32})}}, {"a = ?", []api.Rule{rule("a", api.Node{Op: 1<<32 + 3, Text: "a"})}},
 		{"a = $a", []api.Rule{rule("a", a, a)}}, {"a = $a", []api.Rule{rule("a", b, a)}}, {"a = $b", []api.Rule{rule("a", api.Node{}, b)}}, {"a = lower($a)", []api.Rule{rule("a", a, b, node(api.OpLower, 0))}}, {"a = $a + $a", []api.Rule{rule("a", a, node(api.OpJoin, 0, 0))}}, {"a = $b + $a", []api.Rule{rule("a", a, b, node(api.OpJoin, 1, 0))}},
 		{"a = lower(?)", []api.Rule{rule("a", api.Node{}, node(api.OpLower, 0))}}, {"a = not ?", []api.Rule{rule("a", node(api.OpOr, 1, 2), node(api.OpNot, 0))}}, {"a = ? + ?", []api.Rule{rule("a", node(api.OpOr, 0, 0), node(api.OpNot, 7), node(api.OpJoin, 0, 1))}},
@@ -85,6 +85,31 @@ func TestPrintOfRulesThatAreNotRight(t *testing.T) {
 			t.Errorf("P11.3: right: %v", c.l)
 		}
 		checkPrint(t, c.l)
+	}
+}
+
+// Where an expression has no nodes, nothing stands.
+func TestPrintOfExpressionsWithoutNodes(t *testing.T) {
+	a, one := claim("a"), rule("b", number(1))
+	for _, c := range []struct {
+		want string
+		l    []api.Rule
+	}{
+		{"deny when ", []api.Rule{{}}}, {"deny when ", []api.Rule{denial()}}, {"deny when ", []api.Rule{{Expr: []api.Node{}, When: []api.Node{}}}}, {"deny when ", []api.Rule{rule("", a)}}, {"deny when ", []api.Rule{{When: make([]api.Node, 0, 4)}}},
+		{"a = ", []api.Rule{rule("a")}}, {"a = ", []api.Rule{{Name: "a", Expr: []api.Node{}, When: []api.Node{}}}}, {"a =  when $a", []api.Rule{{Name: "a", When: []api.Node{a}}}}, {"a = $a", []api.Rule{rule("a", a)}},
+		{"deny when ; deny when ", []api.Rule{{}, {}}}, {"a = ; a = ", []api.Rule{rule("a"), rule("a")}}, {"deny when ; a = ", []api.Rule{{}, rule("a")}}, {"a = ; deny when ", []api.Rule{rule("a"), {}}},
+		{"b = 1; deny when ", []api.Rule{one, {}}}, {"deny when ; b = 1", []api.Rule{{}, one}}, {"b = 1; a = ", []api.Rule{one, rule("a")}}, {"a = ; b = 1", []api.Rule{rule("a"), one}}, {"b = 1; a = ; b = 1", []api.Rule{one, rule("a"), one}},
+		{"deny when ?", []api.Rule{denial(api.Node{})}}, {"a = ? when ?", []api.Rule{{Name: "a", Expr: []api.Node{{}}, When: []api.Node{{}}}}},
+	} {
+		if right := printsAs(t, c.l, c.want); right != (c.want == "a = $a") {
+			t.Errorf("P11.3: %v is right: %v", c.l, right)
+		}
+		checkPrint(t, c.l)
+	}
+	for size, want := range map[int]string{4093: strings.Repeat("x", 4093) + " = ", 4094: ""} {
+		if l := []api.Rule{rule(strings.Repeat("x", size))}; printsAs(t, l, want) {
+			t.Errorf("P11.3: right: a name of %d bytes without an expression", size)
+		}
 	}
 }
 

@@ -373,7 +373,7 @@ func (p *printer) inner(i, outer int) string {
 	return p.operand(n.A, outer+1, left) + " " + sign + " " + p.operand(n.B, outer+1, right)
 }
 
-// operand is in parentheses where its precedence is too low. What is written as a question mark has none.
+// operand is in parentheses where its precedence is too low, also if it is written as a question mark.
 func (p *printer) operand(i, outer, required int) string {
 	s, own := p.text(i, outer), 7
 	if sign, ok := signOf[p.nodes[i].Op]; ok {
@@ -382,7 +382,7 @@ func (p *printer) operand(i, outer, required int) string {
 	if p.nodes[i].Op == api.OpNot {
 		own = 3
 	}
-	if own < required && s != "?" {
+	if own < required {
 		return "(" + s + ")"
 	}
 	return s

@@ -44,45 +44,45 @@ func compared(operator string) form {
 	return form{operands: 2, between: operator, own: byComparison, left: byJoin, right: byJoin}
 }
 
-// formOf is the form of a node; false if there is none of its Op.
-func formOf(n api.Node) (form, bool) {
+// formOf is the form of a node whose operands can be written.
+func formOf(n api.Node) form {
 	switch n.Op {
 	case api.OpText:
-		return leaf(quote(n.Text)), true
+		return leaf(quote(n.Text))
 	case api.OpInt:
-		return leaf(strconv.Itoa(n.Int)), true
+		return leaf(strconv.Itoa(n.Int))
 	case api.OpClaim:
-		return leaf("$" + n.Text), true
+		return leaf("$" + n.Text)
 	case api.OpHas:
-		return leaf("has($" + n.Text + ")"), true
+		return leaf("has($" + n.Text + ")")
 	case api.OpJoin:
-		return chained(" + ", byJoin), true
+		return chained(" + ", byJoin)
 	case api.OpLower:
-		return function(1, "lower"), true
+		return function(1, "lower")
 	case api.OpFirst:
-		return function(1, "first"), true
+		return function(1, "first")
 	case api.OpHead:
-		return function(1, "head"), true
+		return function(1, "head")
 	case api.OpTail:
-		return function(1, "tail"), true
+		return function(1, "tail")
 	case api.OpEqual:
-		return compared(" == "), true
+		return compared(" == ")
 	case api.OpLess:
-		return compared(" < "), true
+		return compared(" < ")
 	case api.OpIn:
-		return compared(" in "), true
+		return compared(" in ")
 	case api.OpNot:
-		return form{operands: 1, ahead: "not ", own: byNot, left: byNot}, true
+		return form{operands: 1, ahead: "not ", own: byNot, left: byNot}
 	case api.OpAnd:
-		return chained(" and ", byAnd), true
+		return chained(" and ", byAnd)
 	case api.OpOr:
-		return chained(" or ", byOr), true
+		return chained(" or ", byOr)
 	case api.OpElse:
-		return chained(" else ", byElse), true
+		return chained(" else ", byElse)
 	case api.OpStarts:
-		return function(2, "starts"), true
+		return function(2, "starts")
 	}
-	return form{}, false
+	return leaf(unknown)
 }
 
 // quote writes a text between its marks. What no text may have in it is left as it is: reading it will tell.
@@ -150,11 +150,7 @@ func (w *writer) node(nodes []api.Node, required, outer int) {
 	if w.over {
 		return
 	}
-	f, ok := lastForm(nodes)
-	if !ok || outer >= tooDeep {
-		w.add(unknown)
-		return
-	}
+	f := lastForm(nodes, outer)
 	if f.own < required {
 		w.add("(")
 	}
@@ -178,12 +174,15 @@ func (w *writer) form(f form, nodes []api.Node, outer int) {
 	w.add(f.behind)
 }
 
-// lastForm is the form of the last one of these; false if there is none of its Op, or if its operands are not ahead of it.
-func lastForm(nodes []api.Node) (form, bool) {
+// lastForm is the form of the last one of these, which is inside so many others. One that can't be written keeps its precedence, since parentheses go by the Op alone.
+func lastForm(nodes []api.Node, outer int) form {
 	last := len(nodes) - 1
 	n := nodes[last]
-	f, ok := formOf(n)
+	f := formOf(n)
 	isA := f.operands < 1 || 0 <= n.A && n.A < last
 	isB := f.operands < 2 || 0 <= n.B && n.B < last
-	return f, ok && isA && isB
+	if !isA || !isB || outer >= tooDeep {
+		return form{ahead: unknown, own: f.own}
+	}
+	return f
 }

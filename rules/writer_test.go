@@ -75,7 +75,7 @@ func TestPrintOfRulesThatAreNotRight(t *testing.T) {
 		{"deny when $a", []api.Rule{{Expr: []api.Node{b}, When: []api.Node{a}}}},
 		{"a = ?", []api.Rule{rule("a", api.Node{})}}, {"a = ?", []api.Rule{rule("a", api.Node{Op: 99})}}, {"a = ?", []api.Rule{rule("a", api.Node{Op: 18})}}, {"a = ?", []api.Rule{rule("a", api.Node{Op: -1})}}, {"a = ?", []api.Rule{rule("a", a, api.Node{Op: 1 << 32})}}, {"a = ?", []api.Rule{rule("a", api.Node{Op: 1<<32 + 3, Text: "a"})}},
 		{"a = $a", []api.Rule{rule("a", a, a)}}, {"a = $a", []api.Rule{rule("a", b, a)}}, {"a = $b", []api.Rule{rule("a", api.Node{}, b)}}, {"a = lower($a)", []api.Rule{rule("a", a, b, node(api.OpLower, 0))}}, {"a = $a + $a", []api.Rule{rule("a", a, node(api.OpJoin, 0, 0))}}, {"a = $b + $a", []api.Rule{rule("a", a, b, node(api.OpJoin, 1, 0))}},
-		{"a = lower(?)", []api.Rule{rule("a", api.Node{}, node(api.OpLower, 0))}}, {"a = not ?", []api.Rule{rule("a", node(api.OpOr, 1, 2), node(api.OpNot, 0))}}, {"a = ? + ?", []api.Rule{rule("a", node(api.OpOr, 0, 0), node(api.OpNot, 7), node(api.OpJoin, 0, 1))}},
+		{"a = lower(?)", []api.Rule{rule("a", api.Node{}, node(api.OpLower, 0))}}, {"a = not (?)", []api.Rule{rule("a", node(api.OpOr, 1, 2), node(api.OpNot, 0))}}, {"a = (?) + (?)", []api.Rule{rule("a", node(api.OpOr, 0, 0), node(api.OpNot, 7), node(api.OpJoin, 0, 1))}}, {"a = (? or ?) + ?", []api.Rule{rule("a", api.Node{}, node(api.OpOr, 0, 0), node(api.OpJoin, 1, 0))}},
 		{"a = -1", []api.Rule{rule("a", number(-1))}}, {"a = 9007199254740992", []api.Rule{rule("a", number(mostInt+1))}}, {"a = -9223372036854775808", []api.Rule{rule("a", number(-1<<63))}}, {"a = 9223372036854775807", []api.Rule{rule("a", number(1<<63-1))}},
 		{"a = '\n\xff\x7f'", []api.Rule{rule("a", text("\n\xff\x7f"))}}, {"a = $", []api.Rule{rule("a", claim(""))}}, {"a = $A b", []api.Rule{rule("a", claim("A b"))}}, {"a = has($)", []api.Rule{rule("a", has(""))}}, {"a = has($a))", []api.Rule{rule("a", has("a)"))}}, {"a = $a + $b", []api.Rule{rule("a", claim("a + $b"))}},
 		{"a = $" + strings.Repeat("a", 33), []api.Rule{rule("a", claim(strings.Repeat("a", 33)))}}, {strings.Repeat("a", 33) + " = 1", []api.Rule{rule(strings.Repeat("a", 33), number(1))}},
@@ -146,14 +146,16 @@ var operations = []struct {
 	{api.OpJoin, 5, 5, 6, "", " + ", ""}, {api.OpElse, 6, 6, 7, "", " else ", ""}, {api.OpLower, 7, 0, 0, "lower(", "", ")"}, {api.OpFirst, 7, 0, 0, "first(", "", ")"}, {api.OpHead, 7, 0, 0, "head(", "", ")"}, {api.OpTail, 7, 0, 0, "tail(", "", ")"}, {api.OpStarts, 7, 0, 0, "starts(", ", ", ")"},
 }
 
+// around is an operand, in parentheses if its precedence is lower than required.
+func around(s string, own, required int) string {
+	if own < required {
+		return "(" + s + ")"
+	}
+	return s
+}
+
 // Each operation as an operand of each other one, on both sides.
 func TestParentheses(t *testing.T) {
-	around := func(s string, own, required int) string {
-		if own < required {
-			return "(" + s + ")"
-		}
-		return s
-	}
 	for _, inner := range operations {
 		for _, outer := range operations {
 			nodes := []api.Node{claim("a")}
@@ -190,6 +192,77 @@ func TestParentheses(t *testing.T) {
 			if !printsAs(t, []api.Rule{denial(append(moved, node(outer.op, 0, last+1))...)}, "deny when "+right) {
 				t.Errorf("P11.3: not right: %q", right)
 			}
+		}
+	}
+}
+
+// unknown are nodes that are printed as "?" behind one other node, with their precedences: one operand or both are not ahead, or there is no such Op.
+func unknown() map[api.Node]int {
+	l := map[api.Node]int{}
+	for _, one := range operations {
+		for _, wrong := range []int{-1 << 63, -1, 1, 2, 3, 99, 1<<63 - 1} {
+			l[node(one.op, wrong, wrong)] = one.own
+			l[node(one.op, wrong, 0)] = one.own
+			if one.between != "" {
+				l[node(one.op, 0, wrong)] = one.own
+			}
+		}
+	}
+	for _, op := range []int{0, -1, 18, 99, 1 << 32, 1<<32 + api.OpOr} {
+		l[node(op, 0, 0)] = 7
+		l[node(op, -1, 9)] = 7
+	}
+	return l
+}
+
+// What is printed as "?", as an operand of each operation, on both sides: its Op alone says whether it is in parentheses.
+func TestParenthesesOfUnknownNodes(t *testing.T) {
+	for inner, own := range unknown() {
+		if printsAs(t, []api.Rule{rule("a", claim("c"), inner)}, "a = ?") {
+			t.Errorf("P11.3: right: %v", inner)
+		}
+		for _, outer := range operations {
+			left := outer.ahead + around("?", own, outer.left) + outer.between + "$c" + outer.behind
+			right := outer.ahead + "$c" + outer.between + around("?", own, outer.right) + outer.behind
+			if outer.between == "" {
+				left = outer.ahead + around("?", own, outer.left) + outer.behind
+				right = outer.ahead + "$c" + outer.behind
+			}
+			onLeft := []api.Node{claim("c"), inner, node(outer.op, 1, 0)}
+			onRight := []api.Node{claim("c"), inner, node(outer.op, 0, 1)}
+			if printsAs(t, []api.Rule{rule("a", onLeft...)}, "a = "+left) || printsAs(t, []api.Rule{denial(onRight...)}, "deny when "+right) {
+				t.Errorf("P11.3: right: %v in %v", inner, outer)
+			}
+			checkPrint(t, []api.Rule{{Name: "a", Expr: onRight, When: onLeft}})
+		}
+	}
+}
+
+// Each operation inside 64 others, of which the innermost is each operation: its Op alone says whether it is in parentheses.
+func TestParenthesesOfNodesThatAreTooDeep(t *testing.T) {
+	for _, inner := range operations {
+		for _, outer := range operations {
+			nodes := []api.Node{claim("c"), node(inner.op, 0, 0), node(outer.op, 1, 1)}
+			want := outer.ahead + around("?", inner.own, outer.left) + outer.between + around("?", inner.own, outer.right) + outer.behind
+			if outer.between == "" {
+				want = outer.ahead + around("?", inner.own, outer.left) + outer.behind
+			}
+			for i := range 63 {
+				nodes = append(nodes, node(api.OpHead, i+2))
+				want = "head(" + want + ")"
+			}
+			printsAs(t, []api.Rule{rule("a", nodes...)}, "a = "+want)
+			checkPrint(t, []api.Rule{rule("a", nodes...)})
+		}
+	}
+	for _, leaf := range []api.Node{text("x"), number(1), claim("x"), has("x"), {}, {Op: 99}} {
+		nodes := []api.Node{leaf}
+		for i := range 64 {
+			nodes = append(nodes, node(api.OpElse, i, i))
+			nodes[i+1].B = 0
+		}
+		if s := rules.Print([]api.Rule{denial(nodes...)}); !strings.HasPrefix(s, "deny when ? else ") || strings.Contains(s, "(?") {
+			t.Errorf("P11.2: %v inside 64 others: %q", leaf, s)
 		}
 	}
 }
